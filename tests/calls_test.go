@@ -33,7 +33,7 @@ func someTexts() []string {
 	return append(texts, risingTexts()...)
 }
 
-// asked are all calls of some arguments, to be made in any order.
+// asked are all calls of chapters 1 and 2 with some arguments, to be made in any order.
 func asked() []func() []any {
 	var calls []func() []any
 	ask := func(f func() []any) { calls = append(calls, f) }
@@ -61,7 +61,7 @@ func asked() []func() []any {
 }
 
 func TestAlikeArgumentsHaveAlikeAnswers(t *testing.T) {
-	calls := asked()
+	calls := append(asked(), askedOfDisks()...)
 	first := make([][]any, len(calls))
 	for i, call := range calls {
 		first[i] = call()
