@@ -146,14 +146,7 @@ func RowText(row []Value) (string, int) {
 		return "", code
 	}
 	var b strings.Builder
-	b.WriteByte('(')
-	for i, c := range cells {
-		if i > 0 {
-			b.WriteString(", ")
-		}
-		b.WriteString(literalOf(c))
-	}
-	b.WriteByte(')')
+	writeList(&b, cells, literalOf)
 	return b.String(), OK
 }
 
@@ -334,6 +327,17 @@ func literalOf(c cell) string {
 		return "x'" + hexOf(string(x)) + "'"
 	}
 	return "null"
+}
+
+func writeList[T any](b *strings.Builder, list []T, textOf func(T) string) {
+	b.WriteByte('(')
+	for i, x := range list {
+		if i > 0 {
+			b.WriteString(", ")
+		}
+		b.WriteString(textOf(x))
+	}
+	b.WriteByte(')')
 }
 
 func hexOf(t string) string {
