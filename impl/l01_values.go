@@ -331,13 +331,17 @@ func literalOf(c cell) string {
 
 func writeList[T any](b *strings.Builder, list []T, textOf func(T) string) {
 	b.WriteByte('(')
+	writeJoined(b, list, textOf)
+	b.WriteByte(')')
+}
+
+func writeJoined[T any](b *strings.Builder, list []T, textOf func(T) string) {
 	for i, x := range list {
 		if i > 0 {
 			b.WriteString(", ")
 		}
 		b.WriteString(textOf(x))
 	}
-	b.WriteByte(')')
 }
 
 func hexOf(t string) string {
