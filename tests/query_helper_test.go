@@ -196,8 +196,9 @@ func hasAggregate(e impl.Tree) bool {
 	return slices.ContainsFunc(nodesOf(&e), func(p *impl.Tree) bool { return letterOf(*p) == 'a' })
 }
 
+// rowsRightOf does not ask how many rows there are.
 func rowsRightOf(scope []impl.Field, rows [][]impl.Value) bool {
-	return len(rows) <= 400 && !slices.ContainsFunc(rows, func(r []impl.Value) bool { return !rowRight(scope, r) })
+	return !slices.ContainsFunc(rows, func(r []impl.Value) bool { return !rowRight(scope, r) })
 }
 
 // filterByWords is what FilterRows is to answer.
@@ -209,7 +210,7 @@ func filterByWords(e impl.Tree, scope []impl.Field, rows [][]impl.Value) ([][]im
 	switch {
 	case code != impl.OK:
 		return nil, code
-	case hasAggregate(e) || !rowsRightOf(scope, rows):
+	case hasAggregate(e) || len(rows) > 400 || !rowsRightOf(scope, rows):
 		return nil, impl.ErrBad
 	case kind != impl.VaBool && kind != impl.VaNull:
 		return nil, impl.ErrType
@@ -240,11 +241,11 @@ func projectByWords(list []impl.Tree, scope []impl.Field, rows [][]impl.Value) (
 		if _, code, _ := typedByWords(e, scope); code != impl.OK {
 			return nil, code
 		}
-		if hasAggregate(e) {
+		if hasAggregate(e) || !rowsRightOf(scope, rows) {
 			return nil, impl.ErrBad
 		}
 	}
-	if len(list) > 120 || !rowsRightOf(scope, rows) {
+	if len(list) > 120 || len(rows) > 400 {
 		return nil, impl.ErrBad
 	}
 	made := make([][]impl.Value, len(rows))

@@ -208,24 +208,39 @@ func TestFaultsOfProjections(t *testing.T) {
 	}
 }
 
-// Codes come by the expressions' order, each with its type ahead of an aggregate; then rows and how many expressions there are.
+// misfitsOfTwoInts are rows of which one does not fit two ints; some are more than may be, too.
+func misfitsOfTwoInts() [][][]impl.Value {
+	misfits := [][][]impl.Value{lines("1"), lines("1, 2, 3"), lines("1, 2; 0"), lines("1, 'a'"), lines("true, 1"), {nil}, {row(num(1), num(2)), row()}, append(manyRows(400, 2), row(num(1))), manyRows(401, 1), append(manyRows(impl.MaxList-1, 2), nil), {make([]impl.Value, impl.MaxList+1)}}
+	for _, v := range wrongValues() {
+		misfits = append(misfits, [][]impl.Value{{num(0), num(0)}, {num(1), v}}, [][]impl.Value{{v, num(0)}})
+	}
+	return misfits
+}
+
+// Codes come by the expressions' order, each with its type ahead of an aggregate and of rows that do not fit; then how many rows and expressions there are.
 func TestOrderOfCodesOfProjections(t *testing.T) {
-	right, misfit := lines("1, 2; 0, 3"), lines("1, 2; 0")
+	right := lines("1, 2; 0, 3")
 	for _, c := range []struct {
-		s          string
-		code, also int // of rows that fit, and of such as do not
+		s            string
+		code         int // of rows that fit
+		misfit, many int // of rows that do not fit, and of too many that do
 	}{
-		{"a; b", impl.OK, impl.ErrBad}, {"a; 1 / a", impl.ErrZero, impl.ErrBad}, {"none", impl.ErrName, impl.ErrName}, {"a; none; not a", impl.ErrName, impl.ErrName}, {"a; not a; none", impl.ErrType, impl.ErrType}, {"count(*)", impl.ErrBad, impl.ErrBad}, {"a; max(b)", impl.ErrBad, impl.ErrBad}, {"count(*); none", impl.ErrBad, impl.ErrBad}, {"none; count(*)", impl.ErrName, impl.ErrName}, {"count(*) + none; not a", impl.ErrName, impl.ErrName}, {"count(none)", impl.ErrName, impl.ErrName}, {"1 / 0; count(*)", impl.ErrBad, impl.ErrBad}, {"1 / 0; none", impl.ErrName, impl.ErrName}, {"sum(true); none", impl.ErrType, impl.ErrType},
+		{"a; b", impl.OK, impl.ErrBad, impl.ErrBad}, {"a; 1 / a", impl.ErrZero, impl.ErrBad, impl.ErrBad}, {"none", impl.ErrName, impl.ErrName, impl.ErrName}, {"not a; none", impl.ErrType, impl.ErrType, impl.ErrType}, {"none; not a", impl.ErrName, impl.ErrName, impl.ErrName}, {"1; none", impl.ErrName, impl.ErrBad, impl.ErrName}, {"a; none; not a", impl.ErrName, impl.ErrBad, impl.ErrName}, {"a; not a; none", impl.ErrType, impl.ErrBad, impl.ErrType}, {"a; b; a; b; none", impl.ErrName, impl.ErrBad, impl.ErrName},
+		{"count(*)", impl.ErrBad, impl.ErrBad, impl.ErrBad}, {"a; max(b)", impl.ErrBad, impl.ErrBad, impl.ErrBad}, {"count(*); none", impl.ErrBad, impl.ErrBad, impl.ErrBad}, {"a; count(*); none", impl.ErrBad, impl.ErrBad, impl.ErrBad}, {"none; count(*)", impl.ErrName, impl.ErrName, impl.ErrName}, {"a; none; count(*)", impl.ErrName, impl.ErrBad, impl.ErrName}, {"count(*) + none; not a", impl.ErrName, impl.ErrName, impl.ErrName}, {"count(none)", impl.ErrName, impl.ErrName, impl.ErrName}, {"1 / 0; count(*)", impl.ErrBad, impl.ErrBad, impl.ErrBad}, {"1 / 0; none", impl.ErrName, impl.ErrBad, impl.ErrName}, {"sum(true); none", impl.ErrType, impl.ErrType, impl.ErrType},
 	} {
 		want, code := projectByWords(exprs(t, c.s), twoInts(), right)
 		if code != c.code {
 			t.Error("the words tell", code, "of", c.s)
 		}
 		wantProject(t, exprs(t, c.s), twoInts(), right, want, c.code)
-		for _, rows := range [][][]impl.Value{misfit, lines("1, 2, 3"), lines("1, 'a'"), manyRows(401, 2), manyRows(impl.MaxList, 2), {row(num(1), impl.Value{Kind: 9})}, {nil}} {
-			wantProject(t, exprs(t, c.s), twoInts(), rows, nil, c.also)
+		for _, rows := range misfitsOfTwoInts() {
+			wantProject(t, exprs(t, c.s), twoInts(), rows, nil, c.misfit)
+		}
+		for _, rows := range [][][]impl.Value{manyRows(401, 2), manyRows(impl.MaxList, 2)} {
+			wantProject(t, exprs(t, c.s), twoInts(), rows, nil, c.many)
 		}
 		wantProject(t, exprs(t, c.s), twoInts(), manyRows(impl.MaxList+1, 2), nil, impl.ErrLong)
+		wantProject(t, exprs(t, c.s), twoInts(), manyRows(impl.MaxList+1, 1), nil, impl.ErrLong)
 		wantProject(t, exprs(t, c.s), manyFields(impl.MaxList+1), right, nil, impl.ErrLong)
 		wantProject(t, exprs(t, c.s), manyFields(17), right, nil, impl.ErrBad)
 		wantProject(t, slices.Concat(exprs(t, c.s), make([]impl.Tree, impl.MaxList)), twoInts(), right, nil, impl.ErrLong)
@@ -233,9 +248,29 @@ func TestOrderOfCodesOfProjections(t *testing.T) {
 	wantProject(t, []impl.Tree{{}, field("none")}, twoInts(), right, nil, impl.ErrBad)
 	wantProject(t, []impl.Tree{field("none"), {}}, twoInts(), right, nil, impl.ErrName)
 	wantProject(t, []impl.Tree{broad(impl.MaxTree + 1)}, fields("i int"), lines("1"), nil, impl.ErrBad)
-	wantProject(t, nil, twoInts(), misfit, nil, impl.ErrBad)
-	wantProject(t, nil, twoInts(), manyRows(401, 2), nil, impl.ErrBad)
-	wantProject(t, nil, manyFields(impl.MaxList+1), nil, nil, impl.ErrLong)
+	wantProject(t, exprs(t, "x.a; a"), fields("x.a int, y.a int"), right, nil, impl.ErrTwice)
+	wantProject(t, exprs(t, "x.a; a"), fields("x.a int, y.a int"), lines("1"), nil, impl.ErrBad)
+	wantProject(t, exprs(t, "a; x.a"), fields("x.a int, y.a int"), lines("1"), nil, impl.ErrTwice)
+}
+
+// Without an expression nothing asks whether rows fit, or of the fields: just how many rows there are counts.
+func TestProjectionsOfNoExpression(t *testing.T) {
+	scopes := [][]impl.Field{nil, twoInts(), manyFields(16), manyFields(17), manyFields(impl.MaxList), {{Name: "a", Type: 5}}, {{Name: ""}}}
+	for _, scope := range scopes {
+		for _, list := range [][]impl.Tree{nil, {}, exprs(t, "")} {
+			for _, rows := range append(misfitsOfTwoInts(), nil, lines("1, 2; 3, 4"), manyRows(399, 2), manyRows(400, 3), manyRows(401, 2), manyRows(401, 0), manyRows(impl.MaxList, 2)) {
+				if len(rows) <= 400 {
+					wantProject(t, list, scope, rows, make([][]impl.Value, len(rows)), impl.OK)
+				} else {
+					wantProject(t, list, scope, rows, nil, impl.ErrBad)
+				}
+			}
+			wantProject(t, list, scope, manyRows(impl.MaxList+1, 2), nil, impl.ErrLong)
+		}
+	}
+	for _, rows := range [][][]impl.Value{nil, lines("1, 2"), lines("1"), manyRows(401, 1)} {
+		wantProject(t, nil, manyFields(impl.MaxList+1), rows, nil, impl.ErrLong)
+	}
 }
 
 func TestHowManyExpressionsAProjectionTakes(t *testing.T) {
@@ -249,7 +284,10 @@ func TestHowManyExpressionsAProjectionTakes(t *testing.T) {
 			wantProject(t, list, twoInts(), rows, want, code)
 		}
 		if count > 120 && count <= impl.MaxList {
-			wantProject(t, append(slices.Clone(list[:count-1]), field("none")), twoInts(), nil, nil, impl.ErrName)
+			late := append(slices.Clone(list[:count-1]), field("none"))
+			wantProject(t, late, twoInts(), nil, nil, impl.ErrName)
+			wantProject(t, late, twoInts(), manyRows(401, 2), nil, impl.ErrName)
+			wantProject(t, late, twoInts(), lines("1, 2; 3"), nil, impl.ErrBad)
 		}
 	}
 	for count, code := range map[int]int{399: impl.OK, 400: impl.OK, 401: impl.ErrBad, impl.MaxList: impl.ErrBad, impl.MaxList + 1: impl.ErrLong} {
@@ -272,6 +310,9 @@ func TestRolledFiltersAndProjections(t *testing.T) {
 				var rows [][]impl.Value
 				for range r.below(6) {
 					rows = append(rows, rolledLine(&r.dice, scope, 4))
+				}
+				if r.below(8) == 0 {
+					rows = append(rows, manyRows(1, len(scope)+1)...) // it does not fit
 				}
 				var list []impl.Tree
 				for range r.below(4) {
