@@ -87,9 +87,14 @@ func ReadKey(b []byte) ([]Value, int) {
 	if len(b) > MaxText {
 		return nil, ErrLong
 	}
-	row, ok := readCells(b, readKeyText)
-	if !ok {
-		return nil, ErrForm
+	var row []Value
+	for len(b) > 0 {
+		v, size := readCell(b, readKeyText)
+		if size == 0 || len(row) == MaxCells {
+			return nil, ErrForm
+		}
+		row = append(row, v)
+		b = b[size:]
 	}
 	return row, OK
 }
@@ -111,11 +116,8 @@ func ReadRow(b []byte) ([]Value, int) {
 	if len(b) > MaxText {
 		return nil, ErrLong
 	}
-	if len(b) == 0 {
-		return nil, ErrForm
-	}
-	row, ok := readCells(b[1:], readRowText)
-	if !ok || len(row) != int(b[0]) {
+	row, size := readRow(b)
+	if size == 0 || size != len(b) {
 		return nil, ErrForm
 	}
 	return row, OK
@@ -241,22 +243,29 @@ func writeRowText(b *strings.Builder, t string) {
 	b.WriteString(t)
 }
 
-// readCells reads values to the end of b; false unless they are a right row.
-func readCells(b []byte, readText func([]byte) (string, int)) ([]Value, bool) {
+// readRow answers the row whose row bytes b begins with, and how many these are: 0 if that is no right one.
+func readRow(b []byte) ([]Value, int) {
+	if len(b) == 0 || b[0] > MaxCells {
+		return nil, 0
+	}
 	var row []Value
-	for len(b) > 0 {
-		v, size := readCell(b, readText)
-		if size == 0 || len(row) == MaxCells {
-			return nil, false
+	all := 1
+	for range b[0] {
+		v, size := readCell(b[all:], readRowText)
+		if size == 0 {
+			return nil, 0
 		}
 		row = append(row, v)
-		b = b[size:]
+		all += size
 	}
-	return row, true
+	return row, all
 }
 
 // readCell answers the value that b begins with, and how many bytes tell it: 0 if that is no right one.
 func readCell(b []byte, readText func([]byte) (string, int)) (Value, int) {
+	if len(b) == 0 {
+		return Value{}, 0
+	}
 	kind := int(b[0])
 	switch kind {
 	case VaNull:
