@@ -144,7 +144,8 @@ func TestAllInterleavings(t *testing.T) {
 	}
 }
 
-func eachMix(lists [][]impl.HOp, ahead []impl.HOp, do func([]impl.HOp)) {
+// eachMix calls do with all ways to put lists into each other's midst, behind what is ahead; each stays in its own order.
+func eachMix[E any](lists [][]E, ahead []E, do func([]E)) {
 	ended := true
 	for i, list := range lists {
 		if len(list) == 0 {
