@@ -61,7 +61,7 @@ func asked() []func() []any {
 }
 
 func TestAlikeArgumentsHaveAlikeAnswers(t *testing.T) {
-	calls := slices.Concat(asked(), askedOfDisks(), askedOfStores(), askedOfSpaces(), askedOfTrees(), askedOfCursors(), askedOfBases(), askedOfHistories(), askedOfTables(), askedOfStatements(), askedOfTypes(), askedOfEval(), askedOfQueries(), askedOfPlans(), askedOfRules(), askedOfBackups())
+	calls := slices.Concat(asked(), askedOfDisks(), askedOfStores(), askedOfSpaces(), askedOfTrees(), askedOfCursors(), askedOfBases(), askedOfHistories(), askedOfTables(), askedOfStatements(), askedOfTypes(), askedOfEval(), askedOfQueries(), askedOfPlans(), askedOfRules(), askedOfBackups(), askedOfEngines())
 	first := make([][]any, len(calls))
 	for i, call := range calls {
 		first[i] = call()

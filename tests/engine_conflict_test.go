@@ -94,6 +94,10 @@ func TestWhatIsWritten(t *testing.T) {
 		"sql 0 insert into cases values (1, 'a', null, null) -> null", "sql 0 select id from cases -> ok", "sql 0 select id from notes -> ok")
 	wantReadWrote(t, "cases notes", "", "create cases", "create notes", "rule a on cases insert 1 when true into cases (id + 1, status, n, flag)", "rule b on cases insert 1 when n = 0 into notes (id, status)", "begin 0",
 		"sql 0 insert into cases values (1, 'a', null, null) -> fuel")
+	// rules fire 50 times, and each statement has as much fuel
+	wantReadWrote(t, "cases", "cases", "create cases", "rule a on cases insert 1 when n > 0 set n = n - 1", "rule b on cases update 1 when n > 0 set n = n - 1", "begin 0",
+		fmt.Sprint("sql 0 insert into cases values (1, null, 50, null) -> ok 51 a", strings.Repeat(" b", 49)), "sql 0 insert into cases values (2, null, 51, null) -> fuel",
+		fmt.Sprint("sql 0 insert into cases values (3, null, 50, null) -> ok 51 a", strings.Repeat(" b", 49)), "sql 0 select sum(n) from cases -> ok 1: 0")
 }
 
 // A conflict is a table that was read or written, and has changed since the session began.

@@ -61,6 +61,33 @@ func TestTheGreatestDumps(t *testing.T) {
 	}
 }
 
+// Rules make more rows of a few statements than even a seal holds.
+func TestDumpsThatNoSealHolds(t *testing.T) {
+	long := strings.Repeat(", '"+strings.Repeat("w", impl.MaxCell)+"'", impl.MaxCells-1)
+	begun := []string{"create many(id int, a text, b text, c text, d text, e text, f text, g text) key 1", "begin 0"}
+	for id := 0; id < 150; id += 50 {
+		begun = append(begun, fmt.Sprintf("sql 0 insert into many values (%d%s)", id, long))
+	}
+	copied := impl.Rule{Name: "copied", Table: "many", Event: impl.EvInsert, When: parsedExpr("id % 50 < 49"), Into: "many", Exprs: parsed("insert into t values (id + 1, a, b, c, d, e, f, g)").Kids}
+	calls := callsOf(begun...)
+	calls = slices.Insert(calls, 1, impl.Call{Kind: impl.EnRule, Rule: copied})
+	for _, end := range []string{"commit 0", "crash 0 9"} {
+		e, replies := wantEngine(t, manySectors, append(slices.Clone(calls), callsOf(end, "backup", "begin 1", "sql 1 select count(*) from many")...))
+		told := replies[len(calls):]
+		if replies[len(calls)-1].Count != 50 || told[0].Count != 0 || told[1].Count != 2 || told[3].Rows[0][0] != num(0) || len(e.Data[0].Rows) != 0 {
+			t.Error(end, shownCalls(calls, replies))
+		}
+		if end == "commit 0" && told[0].Code != impl.ErrFull {
+			t.Error("a commit without room", shownReply(told[0]))
+		}
+	}
+	open, _ := ranOn(t, manySectors, calls)
+	dump, _ := dumpByWords(open.Tables, open.Sessions[0].Data)
+	if _, code := impl.SealBytes(dump); code != impl.ErrLong {
+		t.Error("a seal holds", len(dump), "bytes")
+	}
+}
+
 // A catalog's step needs room for a longer text, or for what its rows get.
 func TestCatalogStepsWithoutRoom(t *testing.T) {
 	const full = impl.MaxBlob - sealAround
